@@ -7,8 +7,9 @@ import (
 )
 
 const (
-	top = math.MaxInt64
-	low = math.MinInt64
+	top      = math.MaxInt64
+	low      = math.MinInt64
+	greatest = 1 << 20 // size, told here by its number: the package's own could be wrong
 )
 
 // sizes are those that 64 divides, those that it does not, and what is beside them.
@@ -40,7 +41,7 @@ func rules(size int) []func(i int) bool {
 
 // wrong are numbers that no set of that size has.
 func wrong(size int) []int {
-	return []int{-1, -2, -63, -64, -65, low, low + 1, size, size + 1, size + 63, size + 64, size + 65, most, top - 1, top}
+	return []int{-1, -2, -63, -64, -65, low, low + 1, size, size + 1, size + 63, size + 64, size + 65, greatest, top - 1, top}
 }
 
 // filled is a set of that size of the numbers of a rule, and these, rising.
@@ -107,7 +108,7 @@ func checkNumbers(t *testing.T, what string, s *Set, size int, list []int) {
 
 // Promise 2.1: sets of none, of each size that may be.
 func TestNewIsOfNone(t *testing.T) {
-	for _, size := range append(sizes(), most-64, most-1, most) {
+	for _, size := range append(sizes(), greatest-64, greatest-1, greatest) {
 		s := New(size)
 		if s == nil {
 			t.Errorf("New(%d) is nil", size)
@@ -123,7 +124,7 @@ func TestNewIsOfNone(t *testing.T) {
 
 // Promise 2.1: no set of a size that may not be.
 func TestNewOfWrongSizes(t *testing.T) {
-	for _, size := range []int{-1, -2, -64, low, most + 1, most + 64, 1 << 40, top} {
+	for _, size := range []int{-1, -2, -64, low, greatest + 1, greatest + 64, 1 << 40, top} {
 		if s := New(size); s != nil {
 			t.Errorf("New(%d) is a set of size %d", size, s.Size())
 		}
@@ -264,7 +265,7 @@ func TestRun(t *testing.T) {
 				t.Errorf("size %d, %v: Run(%d): %d, want %d", size, list, n, got, want)
 			}
 		}
-		for _, n := range []int{low, low + 1, -64, most, most + 1, top - 1, top} {
+		for _, n := range []int{low, low + 1, -64, greatest, greatest + 1, top - 1, top} {
 			if got := s.Run(n); got != -1 {
 				t.Errorf("size %d: Run(%d): %d, want -1", size, n, got)
 			}
@@ -288,23 +289,23 @@ func TestListIsOnesOwn(t *testing.T) {
 
 // Promises 2.1 to 2.3: the greatest set, none of it, all of it, and its ends.
 func TestGreatestSet(t *testing.T) {
-	s := New(most)
-	if !s.Put(most-1) || !s.Put(0) || s.Put(most) {
+	s := New(greatest)
+	if !s.Put(greatest-1) || !s.Put(0) || s.Put(greatest) {
 		t.Error("Put of the ends")
 	}
-	sameList(t, "List", s.List(), []int{0, most - 1})
-	same(t, "Next of the first one", s.Next(0), most-1)
-	same(t, "Next of the last one", s.Next(most-1), -1)
-	same(t, "Last", s.Last(), most-1)
-	for i := range most {
+	sameList(t, "List", s.List(), []int{0, greatest - 1})
+	same(t, "Next of the first one", s.Next(0), greatest-1)
+	same(t, "Next of the last one", s.Next(greatest-1), -1)
+	same(t, "Last", s.Last(), greatest-1)
+	for i := range greatest {
 		s.Put(i)
 	}
-	same(t, "Count", s.Count(), most)
-	same(t, "Run of all", s.Run(most), 0)
-	same(t, "Run of more", s.Run(most+1), -1)
+	same(t, "Count", s.Count(), greatest)
+	same(t, "Run of all", s.Run(greatest), 0)
+	same(t, "Run of more", s.Run(greatest+1), -1)
 	s.Drop(500)
 	same(t, "Run behind Drop", s.Run(501), 501)
-	same(t, "Count behind Drop", s.Count(), most-1)
+	same(t, "Count behind Drop", s.Count(), greatest-1)
 }
 
 // The chapter's example.
@@ -412,7 +413,7 @@ func TestPairsOfOne(t *testing.T) {
 
 // Promise 2.6: whatever their sizes, sets of the same numbers are the same, and a number that only one has tells them apart.
 func TestSameOfUnlikeSizes(t *testing.T) {
-	for _, size := range []int{70, 128, 129, 500, most} {
+	for _, size := range []int{70, 128, 129, 500, greatest} {
 		a, b := New(70), New(size)
 		same(t, "Same of none", Same(a, b), true)
 		for _, i := range []int{0, 63, 64, 69} {
@@ -431,17 +432,17 @@ func TestSameOfUnlikeSizes(t *testing.T) {
 
 // Promise 2.6: the greatest sets.
 func TestPairsOfGreatestSets(t *testing.T) {
-	a, b := New(most), New(most)
-	a.Put(most - 1)
+	a, b := New(greatest), New(greatest)
+	a.Put(greatest - 1)
 	a.Put(5)
-	b.Put(most - 1)
+	b.Put(greatest - 1)
 	b.Put(6)
 	checkList := func(what string, s *Set, want []int) {
-		same(t, what+": Size", s.Size(), most)
+		same(t, what+": Size", s.Size(), greatest)
 		sameList(t, what, s.List(), want)
 	}
-	checkList("Or", Or(a, b), []int{5, 6, most - 1})
-	checkList("And", And(a, b), []int{most - 1})
+	checkList("Or", Or(a, b), []int{5, 6, greatest - 1})
+	checkList("And", And(a, b), []int{greatest - 1})
 	checkList("Less", Less(a, b), []int{5})
 	checkList("And with a nil one", And(nil, b), nil)
 	checkList("Less of a nil one", Less(nil, b), nil)

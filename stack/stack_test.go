@@ -6,6 +6,9 @@ import (
 	"testing"
 )
 
+// greatest is the greatest size, told here by its number: the package's own could be wrong.
+const greatest = 1 << 20
+
 func sizes() []int {
 	return []int{0, 1, 2, 3, 4, 7, 64, 100}
 }
@@ -32,7 +35,7 @@ func orders(size int) [][]int {
 
 // wrong are numbers that no stack of that size may have.
 func wrong(size int) []int {
-	return []int{-1, -2, -64, math.MinInt, math.MinInt + 1, -size - 1, size, size + 1, 2 * size, 2*size + 1, most, most + 1, math.MaxInt - 1, math.MaxInt}
+	return []int{-1, -2, -64, math.MinInt, math.MinInt + 1, -size - 1, size, size + 1, 2 * size, 2*size + 1, greatest, greatest + 1, math.MaxInt - 1, math.MaxInt}
 }
 
 // filled is a stack of that size on which the numbers of a row were pushed.
@@ -114,7 +117,7 @@ func without(row []int, x int) []int {
 
 // Promise 3.1: stacks of none, of each size that may be.
 func TestNewIsOfNone(t *testing.T) {
-	for _, size := range append(sizes(), most-1, most) {
+	for _, size := range append(sizes(), greatest-1, greatest) {
 		s := New(size)
 		if s == nil {
 			t.Errorf("New(%d) is nil", size)
@@ -129,7 +132,7 @@ func TestNewIsOfNone(t *testing.T) {
 
 // Promise 3.1: no stack of a size that may not be.
 func TestNewOfWrongSizes(t *testing.T) {
-	for _, size := range []int{-1, -2, -64, math.MinInt, most + 1, most + 2, 2 * most, 1 << 40, 1 << 62, math.MaxInt} {
+	for _, size := range []int{-1, -2, -64, math.MinInt, greatest + 1, greatest + 2, 2 * greatest, 1 << 40, 1 << 62, math.MaxInt} {
 		if New(size) != nil {
 			t.Errorf("New(%d) is a stack", size)
 		}
@@ -296,7 +299,7 @@ func TestListIsOnesOwn(t *testing.T) {
 // Promise 3.4: stacks that New did not give do nothing, and tell that nothing is there.
 func TestStacksThatNewDidNotGive(t *testing.T) {
 	for name, s := range map[string]*Stack{"nil": nil, "zero": {}} {
-		for _, x := range append(wrong(0), 0, 1, 2, most-1) {
+		for _, x := range append(wrong(0), 0, 1, 2, greatest-1) {
 			if s.Push(x) || s.Drop(x) {
 				t.Errorf("%s: Push or Drop of %d is true", name, x)
 			}
@@ -418,27 +421,27 @@ func TestLongRowOfCalls(t *testing.T) {
 
 // Promises 3.1 to 3.4: the greatest stack, full.
 func TestGreatestStack(t *testing.T) {
-	s := New(most)
-	for n := range most {
-		if !s.Push(most - 1 - n) {
-			t.Fatalf("Push(%d) is false", most-1-n)
+	s := New(greatest)
+	for n := range greatest {
+		if !s.Push(greatest - 1 - n) {
+			t.Fatalf("Push(%d) is false", greatest-1-n)
 		}
 	}
-	same(t, "Len", s.Len(), most)
+	same(t, "Len", s.Len(), greatest)
 	same(t, "Push on a full stack", s.Push(0), false)
-	same(t, "Push of what is beyond", s.Push(most), false)
+	same(t, "Push of what is beyond", s.Push(greatest), false)
 	for n, x := range s.List() {
-		if x != most-1-n || s.Place(x) != n {
+		if x != greatest-1-n || s.Place(x) != n {
 			t.Fatalf("%d is at place %d, told as %d", x, n, s.Place(x))
 		}
 	}
-	same(t, "Drop of the lowest one", s.Drop(most-1), true)
+	same(t, "Drop of the lowest one", s.Drop(greatest-1), true)
 	same(t, "Place of the top one", s.Place(0), 0)
-	same(t, "Place of what was dropped", s.Place(most-1), -1)
+	same(t, "Place of what was dropped", s.Place(greatest-1), -1)
 	x, is := s.Pop()
 	same(t, "Pop", x, 1)
 	same(t, "Pop: is there one", is, true)
-	same(t, "Len behind both", s.Len(), most-2)
+	same(t, "Len behind both", s.Len(), greatest-2)
 }
 
 // The chapter's ways: nothing grows into the places, nor out of them, be a stack of none or full.
